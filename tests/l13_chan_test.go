@@ -143,12 +143,12 @@ func pushLike(c impl.Chan, s string) (impl.Chan, bool) {
 }
 
 // sendLike counts first how many come from Queue: by the room in the window,
-// by the oldest one Sent, and by the Nums that are left.
+// and by the oldest one Sent.
 func sendLike(c impl.Chan, now int) (impl.Chan, []impl.Packet) {
 	if !chanRightLike(c) || now < 0 || now > mostSendAt {
 		return c, nil
 	}
-	more := min(len(c.Queue), chanWindow-len(c.Sent), mostNext-c.Next)
+	more := min(len(c.Queue), chanWindow-len(c.Sent))
 	if len(c.Sent) > 0 {
 		more = max(0, min(more, c.Sent[0].Num+chanWindow-1-c.Next))
 	}
@@ -318,10 +318,24 @@ func (lent lentChan) checkAnswer(t *testing.T, what string, got impl.Chan, packe
 	checkStaysRight(t, what, lent.c, got, packets)
 }
 
-// checkStaysRight holds what promise 13 says against an answer.
+// hasNumsLeft holds for all that come from ChanNew by Push, Send and Take.
+func hasNumsLeft(c impl.Chan) bool {
+	return c.Next+len(c.Queue) <= mostNext
+}
+
+// checkStaysRight holds what promise 13 says against an answer. A right channel
+// that was made with more in Queue than there are Nums left may be sent past
+// the last Num, and is wrong in that alone then.
 func checkStaysRight(t *testing.T, what string, c, got impl.Chan, packets []impl.Packet) {
 	t.Helper()
-	if impl.ChanOk(c) != impl.ChanOk(got) {
+	want := impl.ChanOk(c)
+	if want && hasNumsLeft(c) && !hasNumsLeft(got) {
+		t.Errorf("%s: %v had Nums left for its Queue; what came of it, %v, has not", what, c, got)
+	}
+	if want && !hasNumsLeft(c) {
+		want = got.Next <= mostNext
+	}
+	if impl.ChanOk(got) != want {
 		t.Errorf("%s: %v was right: %v; what came of it, %v, is right: %v", what, c, impl.ChanOk(c), got, impl.ChanOk(got))
 	}
 	for _, p := range packets {
@@ -707,18 +721,68 @@ func TestNextAndQueueTogether(t *testing.T) {
 	checkNoPush(t, impl.Chan{Me: 1, Peer: 2, Next: 999, Queue: []string{"y"}}, "x")
 }
 
-// A right channel may have more in Queue than Nums are left: those stay there.
-func TestNextStaysWithinItsLimit(t *testing.T) {
+func TestSendToTheLastNext(t *testing.T) {
 	c := impl.Chan{Me: 1, Peer: 2, Next: 999, Queue: []string{"a"}}
 	checkSend(t, c, 0, impl.Chan{Me: 1, Peer: 2, Next: 1000, Sent: []impl.Pending{sentAt(1000, "a", 2, 1)}}, packetOf(opControl, 0, 1, 2, 1000, nil, "a"))
+	c = impl.Chan{Me: 1, Peer: 2, Next: 996, Queue: textsInRow(4)}
+	last, packets := sendLike(c, 3)
+	if last.Next != mostNext || len(last.Sent) != chanWindow || len(packets) != chanWindow || !chanRightLike(last) {
+		t.Fatalf("the last four are sent as %v, %v", last, packets)
+	}
+	checkSend(t, c, 3, last, packets...)
+	checkNoSend(t, last, 4)
+	checkNoPush(t, last, "x")
+	checkNoSend(t, impl.Chan{Me: 1, Peer: 2, Next: 1000}, 0)
+}
+
+// A right channel that was made, not pushed, may have more in Queue than Nums
+// are left: Send names no Next at which it ends.
+func TestSendPastTheLastNext(t *testing.T) {
+	c := impl.Chan{Me: 1, Peer: 2, Next: 1000, Queue: []string{"a"}}
+	past := impl.Chan{Me: 1, Peer: 2, Next: 1001, Sent: []impl.Pending{sentAt(1001, "a", 2, 1)}}
+	checkSend(t, c, 0, past, packetOf(opControl, 0, 1, 2, 1001, nil, "a"))
 	c = impl.Chan{Me: 1, Peer: 2, Next: 999, Queue: []string{"a", "b"}}
-	checkSend(t, c, 0, impl.Chan{Me: 1, Peer: 2, Next: 1000, Queue: []string{"b"}, Sent: []impl.Pending{sentAt(1000, "a", 2, 1)}}, packetOf(opControl, 0, 1, 2, 1000, nil, "a"))
-	checkNoSend(t, impl.Chan{Me: 1, Peer: 2, Next: 1000, Queue: []string{"a", "b"}}, 0)
-	for size := range mostQueue + 1 {
-		for next := mostNext - 6; next <= mostNext; next++ {
+	both := impl.Chan{Me: 1, Peer: 2, Next: 1001, Sent: []impl.Pending{sentAt(1000, "a", 2, 1), sentAt(1001, "b", 2, 1)}}
+	checkSend(t, c, 0, both, packetOf(opControl, 0, 1, 2, 1000, nil, "a"), packetOf(opControl, 0, 1, 2, 1001, nil, "b"))
+	c = impl.Chan{Me: 1, Peer: 2, Next: 998, Queue: []string{"a", "b", "c", "d", "e"}, Owed: []int{3}}
+	four := impl.Chan{Me: 1, Peer: 2, Next: 1002, Queue: []string{"e"}}
+	var packets []impl.Packet
+	for place, text := range c.Queue[:4] {
+		four.Sent = append(four.Sent, sentAt(999+place, text, 7, 1))
+		packets = append(packets, packetOf(opControl, 0, 1, 2, 999+place, nil, text))
+	}
+	packets[0].Acks = []int{3}
+	checkSend(t, c, 5, four, packets...)
+	for _, over := range []impl.Chan{past, both, four} {
+		checkChan(t, over, false)
+		checkNoPush(t, over, "x")
+		checkNoSend(t, over, 300)
+		checkNoTake(t, over, control(1, []int{1001}, "x"))
+		checkNoTake(t, over, ackOnly(1000, 1001))
+	}
+}
+
+// The window and the oldest one Sent bind at the last Nums as they do at others.
+func TestTheWindowBindsAtTheLastNext(t *testing.T) {
+	for next := mostNext - 6; next <= mostNext; next++ {
+		for size := range mostQueue + 1 {
 			checkSendLike(t, impl.Chan{Me: 1, Peer: 2, Next: next, Queue: textsInRow(size)}, 3)
 		}
+		for first := next - 5; first <= next; first++ {
+			c := impl.Chan{Me: 1, Peer: 2, Next: next, Sent: sentOf(first), Queue: textsInRow(6), Owed: []int{1}}
+			checkSendLike(t, c, 3)
+			if first < next {
+				checkSendLike(t, changed(c, func(c *impl.Chan) { c.Sent = sentOf(first, next) }), 3)
+			}
+		}
 	}
+	bound := impl.Chan{Me: 1, Peer: 2, Next: 1000, Sent: sentOf(997), Queue: []string{"x"}}
+	checkNoSend(t, bound, 0)
+	full := impl.Chan{Me: 1, Peer: 2, Next: 1000, Sent: sentOf(997, 998, 999, 1000), Queue: []string{"x"}}
+	checkNoSend(t, full, 0)
+	free := impl.Chan{Me: 1, Peer: 2, Next: 1000, Sent: sentOf(998), Queue: []string{"x", "y"}}
+	want := impl.Chan{Me: 1, Peer: 2, Next: 1001, Sent: append(sentOf(998), sentAt(1001, "x", 2, 1)), Queue: []string{"y"}}
+	checkSend(t, free, 0, want, packetOf(opControl, 0, 1, 2, 1001, nil, "x"))
 }
 
 func TestSendFillsTheWindow(t *testing.T) {
@@ -1218,6 +1282,42 @@ func TestAChanStaysRightWhateverComes(t *testing.T) {
 			checkStaysRight(t, "a life", before, c, told)
 			now += draw.Intn(20)
 		}
+	}
+}
+
+// What comes from ChanNew is pushed to as often as it takes a text, up to its
+// last Num: no more than that is ever in Queue, and so Send stays right there.
+func TestAChanFromNewStaysRightUpToItsLastNum(t *testing.T) {
+	draw := rand.New(rand.NewSource(176))
+	for life := range 12 {
+		c, _ := impl.ChanNew(1, 2)
+		pushed, now := 0, 0
+		for step := 0; step < 20000 && (c.Next < mostNext || len(c.Sent) > 0); step++ {
+			before, told := cloneChan(c), []impl.Packet(nil)
+			switch draw.Intn(4) {
+			case 0:
+				c, told = impl.Send(c, now)
+			case 1:
+				acks := []int{max(1, c.Next-3), max(1, c.Next-2), max(1, c.Next-1), max(1, c.Next)}
+				c, _ = impl.Take(c, ackOnly(acks[draw.Intn(2):]...))
+			default:
+				for ok := true; ok && draw.Intn(20) > life; {
+					if c, ok = impl.Push(c, "x"); ok {
+						pushed++
+					}
+				}
+			}
+			checkStaysRight(t, "a life", before, c, told)
+			if !impl.ChanOk(c) || !hasNumsLeft(c) {
+				t.Fatalf("in life %d %v came to %v", life, before, c)
+			}
+			now += 300
+		}
+		if c.Next != mostNext || pushed != mostNext || len(c.Queue) > 0 {
+			t.Fatalf("life %d ends with %d pushed, at %v", life, pushed, c)
+		}
+		checkNoPush(t, c, "x")
+		checkNoSend(t, c, 5)
 	}
 }
 
