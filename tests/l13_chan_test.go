@@ -1524,13 +1524,9 @@ func TestManySendAtOnce(t *testing.T) {
 	all.Wait()
 }
 
-func TestASendLeavesNobodyBehind(t *testing.T) {
-	before := runtime.NumGoroutine()
-	for range 1000 {
-		for _, c := range []impl.Chan{{Me: 1, Peer: 2, Queue: textsInRow(6), Owed: []int{1, 3}}, {Me: 1, Peer: 2, Owed: []int{1}}, {Me: 1, Peer: 2}, {}} {
-			impl.Send(c, 5)
-		}
-	}
+// checkNobodyIsLeft gives those that have told all the time to end.
+func checkNobodyIsLeft(t *testing.T, before int) {
+	t.Helper()
 	for range 10000 {
 		if runtime.NumGoroutine() <= before {
 			return
@@ -1538,4 +1534,14 @@ func TestASendLeavesNobodyBehind(t *testing.T) {
 		runtime.Gosched()
 	}
 	t.Errorf("%d goroutines are there; before it were %d", runtime.NumGoroutine(), before)
+}
+
+func TestASendLeavesNobodyBehind(t *testing.T) {
+	before := runtime.NumGoroutine()
+	for range 1000 {
+		for _, c := range []impl.Chan{{Me: 1, Peer: 2, Queue: textsInRow(6), Owed: []int{1, 3}}, {Me: 1, Peer: 2, Owed: []int{1}}, {Me: 1, Peer: 2}, {}} {
+			impl.Send(c, 5)
+		}
+	}
+	checkNobodyIsLeft(t, before)
 }
