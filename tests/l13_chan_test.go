@@ -208,8 +208,10 @@ func takeLike(c impl.Chan, p impl.Packet) (impl.Chan, bool) {
 	return next, true
 }
 
-// memory is from where to where something lies, and whose it is.
+// memory is from where to where something lies, and whose it is; held, so that
+// nothing else comes to lie there as long as it is asked about.
 type memory struct {
+	held  unsafe.Pointer
 	begin uintptr
 	end   uintptr
 	given bool
@@ -218,13 +220,13 @@ type memory struct {
 
 func memoryOf[T any](list []T, given bool, what string) memory {
 	var one T
-	begin := uintptr(unsafe.Pointer(unsafe.SliceData(list)))
-	return memory{begin, begin + uintptr(cap(list))*unsafe.Sizeof(one), given, what}
+	held := unsafe.Pointer(unsafe.SliceData(list))
+	return memory{held, uintptr(held), uintptr(held) + uintptr(cap(list))*unsafe.Sizeof(one), given, what}
 }
 
 func memoryOfText(text string, given bool) memory {
-	begin := uintptr(unsafe.Pointer(unsafe.StringData(text)))
-	return memory{begin, begin + uintptr(len(text)), given, "a text"}
+	held := unsafe.Pointer(unsafe.StringData(text))
+	return memory{held, uintptr(held), uintptr(held) + uintptr(len(text)), given, "a text"}
 }
 
 func listsOf(c impl.Chan, given bool) []memory {
